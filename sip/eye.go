@@ -48,8 +48,12 @@ func (e *Eye) Text(most int) string {
 	if e == nil {
 		return ""
 	}
+	if most < 0 { // no digits could tell a length that is allowed, so none are asked
+		e.fail(api.ErrForm)
+		return ""
+	}
 	n := e.Num(math.MaxUint64) // any length: what is wrong with its digits is told ahead of its being above most
-	if most < 0 || n > uint64(most) {
+	if n > uint64(most) {
 		e.fail(api.ErrForm)
 		return ""
 	}

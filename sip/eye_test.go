@@ -114,7 +114,7 @@ func TestDigitFaults(t *testing.T) {
 			t.Errorf("% x: true", s)
 		}
 		faulty(t, "Truth", e, want)
-		for _, most := range []int{math.MaxInt64, 0, -1} {
+		for _, most := range []int{math.MaxInt64, 0} {
 			e = sip.Look([]byte(s))
 			if x := e.Text(most); x != "" {
 				t.Errorf("% x: %q", s, x)
@@ -195,10 +195,6 @@ func TestTexts(t *testing.T) {
 		{"\x01a", 0, api.ErrForm},
 		{"\x05ab", 4, api.ErrForm}, // too long is told of the digits alone: ahead of what is behind them
 		{"\x05", 4, api.ErrForm},
-		{"\x00", -1, api.ErrForm},
-		{"\x00", math.MinInt64, api.ErrForm},
-		{"\x01a", -1, api.ErrForm},
-		{"\x05", -5, api.ErrForm},
 	} {
 		e := sip.Look([]byte(c.bytes))
 		if s := e.Text(c.most); s != "" {
@@ -206,6 +202,27 @@ func TestTexts(t *testing.T) {
 		}
 		faulty(t, "Text", e, c.want)
 	}
+}
+
+// P1.2: with a most below 0 no text can be read, whatever the bytes are; nothing is told of digits then.
+func TestTextWithMostBelowNought(t *testing.T) {
+	for _, s := range []string{"", "\x00", "\x01a", "\x05", "\x05ab", "\x80", "\x80\x00", nines(), nines() + "\x00", nines() + "\x80"} {
+		for _, most := range []int{-1, -5, math.MinInt64} {
+			e := sip.Look([]byte(s))
+			if x := e.Text(most); x != "" {
+				t.Errorf("% x of %d at most: %q", s, most, x)
+			}
+			faulty(t, "a most below 0", e, api.ErrForm)
+			e = sip.Look([]byte("\x07" + s))
+			if e.Num(7) != 7 || e.Text(most) != "" {
+				t.Errorf("% x of %d at most, behind a number: something else was read", s, most)
+			}
+			faulty(t, "a most below 0 behind a number", e, api.ErrForm)
+		}
+	}
+	var e sip.Eye
+	e.Text(-1)
+	faulty(t, "a most below 0 of a plain eye", &e, api.ErrForm)
 }
 
 // P1.2: the first fault stays, though another one would come behind it.
